@@ -84,7 +84,7 @@ func small() api.Policy {
 	p.Labels[9] = api.Label{S: set(5), I: set(1, 2)}
 	p.Acts[1] = set(2)
 	p.Acts[2] = set(3)
-	p.Acts[9] = set(9, 1)
+	p.Acts[9] = set(1)
 	p.Owner[0], p.Owner[1], p.Owner[2], p.Owner[3] = 1, 2, 3, 3
 	p.Owner[5] = 9
 	return p
@@ -122,7 +122,7 @@ func mixedPolicy(next func(below int) int) api.Policy {
 		}
 		p.Labels[r] = api.Label{S: p.Active & set(next(16)) & uint16(-next(2)), I: p.Active &^ set(next(16))}
 		for range edges {
-			p.Acts[r] |= p.Live & set(next(16))
+			p.Acts[r] |= p.Live & set(next(16)) &^ set(r)
 		}
 	}
 	for t := range 16 {
@@ -137,7 +137,6 @@ func mixedPolicy(next func(below int) int) api.Policy {
 func samples() []api.Policy {
 	one := api.Policy{Live: set(15), Active: set(15), Owner: nobody()}
 	one.Labels[15] = api.Label{S: set(15), I: set(15)}
-	one.Acts[15] = set(15)
 	one.Owner[15] = 15
 	idle := noLive(0)
 	idle.Live = set(0, 7)
@@ -181,7 +180,10 @@ func valid(p api.Policy) bool {
 			}
 			continue
 		}
-		if !inside(p.Labels[r].S, p.Active) || !inside(p.Labels[r].I, p.Active) || !inside(p.Acts[r], p.Live) {
+		if !inside(p.Labels[r].S, p.Active) || !inside(p.Labels[r].I, p.Active) {
+			return false
+		}
+		if has(p.Acts[r], r) || !inside(p.Acts[r], p.Live) {
 			return false
 		}
 	}
@@ -396,8 +398,10 @@ func TestFineBreaksOnePartAtATime(t *testing.T) {
 		{"a live role has the zero label", func(p *api.Policy) { p.Labels[9] = api.Label{} }, true},
 		{"a live role acts for one that is not live", func(p *api.Policy) { p.Acts[3] = set(0) }, false},
 		{"a live role acts for one that is not live, too", func(p *api.Policy) { p.Acts[1] |= set(15) }, false},
-		{"a live role acts for itself", func(p *api.Policy) { p.Acts[3] = set(3) }, true},
-		{"live roles act for each other", func(p *api.Policy) { p.Acts[3] = set(1, 2, 3, 9) }, true},
+		{"a live role acts for itself", func(p *api.Policy) { p.Acts[3] = set(3) }, false},
+		{"a live role acts for itself, too", func(p *api.Policy) { p.Acts[1] |= set(1) }, false},
+		{"live roles act for each other", func(p *api.Policy) { p.Acts[3] = set(1, 2, 9) }, true},
+		{"live roles act for each other, and one for itself", func(p *api.Policy) { p.Acts[3] = set(1, 2, 3, 9) }, false},
 		{"an owner is not live", func(p *api.Policy) { p.Owner[4] = 0 }, false},
 		{"an owner is not live, at the end", func(p *api.Policy) { p.Owner[0] = 15 }, false},
 		{"an owner is above 16", func(p *api.Policy) { p.Owner[4] = 17 }, false},
@@ -419,6 +423,75 @@ func TestFineBreaksOnePartAtATime(t *testing.T) {
 		c.change(&p)
 		if got := policy.Fine(p); got != c.fine {
 			t.Errorf("%s: %v", c.name, got)
+		}
+	}
+}
+
+// selfish is a policy in which a role acts directly for itself, and what it would be if it did not.
+type selfish struct {
+	name      string
+	p, mended api.Policy
+}
+
+// selfishOf are the policies in which a role acts directly for itself: where it alone is live, and beside none, each and all of the other roles for which it acts.
+func selfishOf(r int) []selfish {
+	alone := noLive(all)
+	alone.Live = set(r)
+	alone.Owner[r] = uint8(r)
+	free := allLive()
+	free.Acts = [16]uint16{}
+	busy := allLive()
+	for a := range 16 {
+		busy.Acts[a] = all - set(a)
+	}
+	l := []selfish{
+		{name: "alone", mended: alone},
+		{name: "no role acts", mended: free},
+		{name: "each acts for the next one", mended: allLive()},
+		{name: "all act for all others", mended: busy},
+	}
+	for other := range 16 {
+		if other != r {
+			p, back := free, free
+			p.Acts[r] = set(other)
+			back.Acts[other] = set(r)
+			l = append(l, selfish{name: "it acts for one", mended: p}, selfish{name: "one acts for it", mended: back})
+		}
+	}
+	for i := range l {
+		l[i].p = l[i].mended
+		l[i].p.Acts[r] |= set(r)
+	}
+	return l
+}
+
+func TestFineOfARoleThatActsForItself(t *testing.T) {
+	for r := range 16 {
+		for _, c := range selfishOf(r) {
+			if !policy.Fine(c.mended) {
+				t.Errorf("role %d, %s: not valid: %v", r, c.name, c.mended)
+			}
+			if policy.Fine(c.p) {
+				t.Errorf("role %d acts for itself, %s: valid: %v", r, c.name, c.p)
+			}
+		}
+		p := noLive(all)
+		p.Acts[r] = set(r)
+		if policy.Fine(p) {
+			t.Errorf("role %d, which is not live, acts for itself: valid", r)
+		}
+	}
+}
+
+// Where all roles are live, each may act directly for every set of others, and for no set that has itself.
+func TestFineForEachSetOfActs(t *testing.T) {
+	for r := range 16 {
+		p := allLive()
+		for acts := range 65536 {
+			p.Acts[r] = uint16(acts)
+			if got := policy.Fine(p); got == has(uint16(acts), r) {
+				t.Fatalf("role %d acts for %d: %v", r, acts, got)
+			}
 		}
 	}
 }
@@ -560,8 +633,8 @@ func TestActsFor(t *testing.T) {
 		{"a longer chain, its begin not visible", 9, 3, both, false},
 		{"for itself", 1, 1, both, true},
 		{"for itself, not visible", 1, 1, bottom, false},
-		{"for itself, with an edge", 9, 9, top, true},
-		{"for itself, with an edge, not visible", 9, 9, both, false},
+		{"for itself, at the end of the chain", 3, 3, both, true},
+		{"for itself, not visible, though another one is", 9, 9, both, false},
 		{"for itself, not live", 4, 4, top, false},
 		{"from one that is not live", 0, 1, top, false},
 		{"to one that is not live", 1, 0, top, false},
@@ -664,7 +737,7 @@ func TestCapsOfTagsWithoutAnOwner(t *testing.T) {
 		for r := range 16 {
 			p.Acts[r] = 0
 			if has(p.Live, r) {
-				p.Acts[r] = p.Live
+				p.Acts[r] = p.Live &^ set(r)
 			}
 		}
 		var owned uint16
@@ -892,7 +965,7 @@ func TestBytesByteByByte(t *testing.T) {
 		"\x00\x00\x00\x3f\x00\x04" +
 		"\x00\x01\x00\x06\x00\x08" +
 		"\x00\x00\x00\x02\x00\x00" +
-		"\x00\x20\x00\x06\x02\x02" +
+		"\x00\x20\x00\x06\x00\x02" +
 		"\x00\x3f" +
 		"\x01\x02\x03\x03\x10\x09\x10\x10\x10\x10\x10\x10\x10\x10\x10\x10"
 	cases := []struct {
@@ -986,6 +1059,8 @@ func TestReadOfAPolicyThatIsNotValid(t *testing.T) {
 		func(p *api.Policy) { p.Labels[1].S = set(6) },
 		func(p *api.Policy) { p.Labels[9].I = set(15) },
 		func(p *api.Policy) { p.Acts[2] = set(15) },
+		func(p *api.Policy) { p.Acts[2] = set(2) },
+		func(p *api.Policy) { p.Acts[9] |= set(9) },
 		func(p *api.Policy) { p.Owner[4] = 0 },
 		func(p *api.Policy) { p.Owner[6] = 1 },
 		func(p *api.Policy) { p.Active = set(0, 1, 2, 3, 5) },
@@ -999,6 +1074,21 @@ func TestReadOfAPolicyThatIsNotValid(t *testing.T) {
 			t.Fatalf("change %d leaves the policy valid", i)
 		}
 		checkRead(t, bytesOf(p), api.Policy{}, api.ErrForm, 0)
+	}
+}
+
+// The policy is zero, and the error that of a policy that is not valid, behind the errors of its numbers.
+func TestReadOfARoleThatActsForItself(t *testing.T) {
+	for r := range 16 {
+		for _, c := range selfishOf(r) {
+			checkRead(t, bytesOf(c.mended), c.mended, api.OK, 0)
+			b := bytesOf(c.p)
+			checkRead(t, b, api.Policy{}, api.ErrForm, 0)
+			checkRead(t, append(bytes.Clone(b), 1, 2), api.Policy{}, api.ErrForm, 0)
+			checkRead(t, b[:len(b)-1], api.Policy{}, api.ErrEnd, 0)
+			b[len(b)-1] = 17
+			checkRead(t, b, api.Policy{}, api.ErrRange, 0)
+		}
 	}
 }
 
@@ -1050,7 +1140,7 @@ func TestReadByAReaderThatFailed(t *testing.T) {
 
 // P12.4: roles that are not visible under a label have no effect on what is computed under it.
 
-// hidden are other policies in which only the roles that are not visible differ: they are gone with their tags' owners, or all act for all, or have other labels, or own more tags.
+// hidden are other policies in which only the roles that are not visible differ: they are gone with their tags' owners, or all act for all others, or have other labels, or own more tags.
 func hidden(p api.Policy, l api.Label, next func(below int) int) []api.Policy {
 	seen := visible(p, l)
 	gone, busy, lost, rich := p, p, p, p
@@ -1061,9 +1151,9 @@ func hidden(p api.Policy, l api.Label, next func(below int) int) []api.Policy {
 		lost.Acts[r] &= seen
 		if has(p.Live&^seen, r) {
 			gone.Acts[r], gone.Labels[r] = 0, api.Label{}
-			lost.Acts[r] = p.Live & uint16(next(65536))
-			busy.Acts[r] = p.Live
-			rich.Acts[r] = p.Live &^ set(r)
+			others := p.Live &^ set(r)
+			lost.Acts[r] = others & uint16(next(65536))
+			busy.Acts[r], rich.Acts[r] = others, others
 			// One secrecy more keeps a role from where it was not visible.
 			rich.Labels[r].S |= p.Active
 		} else if has(seen, r) {
